@@ -364,24 +364,29 @@ func diskCalls() map[string]func(d impl.Disk) impl.Disk {
 	}
 }
 
-// No argument is changed by a call, not even behind the end of its lists, and no memory is shared with the answer.
+// ownMemory asks that a call changes no argument, not even behind the end of its lists, and shares no memory with it.
+func ownMemory(t *testing.T, what string, d impl.Disk, call func(d impl.Disk) impl.Disk) {
+	t.Helper()
+	arg := roomy(d)
+	scribbled(impl.Disk{Sectors: arg.Sectors[len(arg.Sectors):], Pending: arg.Pending[len(arg.Pending):]})
+	got := call(arg)
+	sameDisk(t, what+": the argument behind the call", arg, d)
+	same(t, what+": behind its Sectors", arg.Sectors[:cap(arg.Sectors)][len(d.Sectors)], "scribbled")
+	same(t, what+": behind its Pending", arg.Pending[:cap(arg.Pending)][len(d.Pending)].Data, "scribbled")
+	told := ownDisk(got)
+	scribbled(arg)
+	sameDisk(t, what+": the answer, the argument turned", got, told)
+
+	arg = roomy(d)
+	scribbled(call(arg))
+	sameDisk(t, what+": the argument, the answer turned", arg, d)
+	sameDisk(t, what+": another answer", call(arg), told)
+}
+
 func TestDiskMemory(t *testing.T) {
 	for what, call := range diskCalls() {
 		for _, d := range append(rightDisks(), wrongDisks()...) {
-			arg := roomy(d)
-			scribbled(impl.Disk{Sectors: arg.Sectors[len(arg.Sectors):], Pending: arg.Pending[len(arg.Pending):]})
-			got := call(arg)
-			sameDisk(t, what+": the argument behind the call", arg, d)
-			same(t, what+": behind its Sectors", arg.Sectors[:cap(arg.Sectors)][len(d.Sectors)], "scribbled")
-			same(t, what+": behind its Pending", arg.Pending[:cap(arg.Pending)][len(d.Pending)].Data, "scribbled")
-			told := ownDisk(got)
-			scribbled(arg)
-			sameDisk(t, what+": the answer, the argument turned", got, told)
-
-			arg = roomy(d)
-			scribbled(call(arg))
-			sameDisk(t, what+": the argument, the answer turned", arg, d)
-			sameDisk(t, what+": another answer", call(arg), told)
+			ownMemory(t, what, d, call)
 		}
 	}
 }
