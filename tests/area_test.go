@@ -146,23 +146,72 @@ func TestAreaReadOfPending(t *testing.T) {
 	hidden := areaDisk(5, 3, 0, "what there was")
 	hidden.Pending = []impl.Pending{{At: 0, Data: "x"}}
 	noArea(t, "a head that is hidden", impl.AreaRead(hidden), impl.ErrShort)
-	hidden = bareDisk(5, 3, 0, "what there was")
+	hidden = areaDisk(5, 3, 0, "what there was")
 	hidden.Pending = []impl.Pending{{At: 1, Data: "what there wa"}}
 	noArea(t, "a side that is hidden", impl.AreaRead(hidden), impl.ErrSum)
 }
 
-// The bytes of a side are counted one behind the other, wherever a Sector of it ends.
-func TestAreaReadCountsTheWholeSide(t *testing.T) {
-	d := impl.Disk{Sectors: []string{numbered(2, 1, 4), "a", "b", "c", "ab", "", "cd"}}
-	sameAreaOut(t, "just enough", impl.AreaRead(d), impl.AreaOut{Disk: d, Text: "abcd", Gen: 2})
-	for n, text := range []string{"", "a", "ab", "abc"} {
-		d.Sectors[0] = numbered(2, 1, int64(n))
-		sameAreaOut(t, "more than the head names", impl.AreaRead(d), impl.AreaOut{Disk: d, Text: text, Gen: 2})
+// A text stands in the Sectors that it needs, each full but the last one: of the last one only its first bytes count.
+func TestAreaReadTakesFirstBytes(t *testing.T) {
+	for _, side := range []int64{0, 1} {
+		d := bareDisk(7, 2, side, long(3*impl.SectorSize))
+		for n := range 3*impl.SectorSize + 1 {
+			d.Sectors[0] = numbered(2, side, int64(n))
+			sameAreaOut(t, "more than the head names", impl.AreaRead(d), impl.AreaOut{Disk: d, Text: long(n), Gen: 2})
+		}
 	}
-	d.Sectors[0], d.Sectors[6] = numbered(2, 1, 4), "c"
-	noArea(t, "one too few", impl.AreaRead(d), impl.ErrSum)
-	d.Sectors[0] = numbered(2, 0, 4)
-	noArea(t, "the other side's bytes", impl.AreaRead(d), impl.ErrSum)
+}
+
+// What stands in a Sector that the text does not need makes no difference, however few bytes it has.
+func TestAreaReadOfUnneededSectors(t *testing.T) {
+	for _, n := range []int{0, 1, 4, impl.SectorSize, impl.SectorSize + 4} {
+		for _, side := range []int64{0, 1} {
+			for _, other := range []string{"", "wxyz", long(impl.SectorSize)} {
+				d := bareDisk(8, 2, side, long(n))
+				for at := 1; at < len(d.Sectors); at++ {
+					if d.Sectors[at] == "" {
+						d.Sectors[at] = other
+					}
+				}
+				sameAreaOut(t, "AreaRead", impl.AreaRead(d), impl.AreaOut{Disk: d, Text: long(n), Gen: 2})
+			}
+		}
+	}
+}
+
+// A Sector that is not full is not gone on from, even if there are bytes enough behind it, Pending or not.
+func TestAreaReadOfSectorNotFull(t *testing.T) {
+	for _, side := range []int64{0, 1} {
+		for _, n := range []int{1, 4, impl.SectorSize, impl.SectorSize + 4, 2 * impl.SectorSize, 2*impl.SectorSize + 1} {
+			for i, part := range pieces(long(n)) {
+				for _, left := range []int{0, len(part) / 2, len(part) - 1} {
+					shortOfOne(t, n, side, i, part[:left])
+				}
+			}
+		}
+	}
+}
+
+// shortOfOne lays a text of n bytes over full Sectors, leaves so much in the one of the number i, and asks for ErrSum.
+func shortOfOne(t *testing.T, n int, side int64, i int, left string) {
+	t.Helper()
+	const sectors = 9
+	d := areaDisk(sectors, 5, side, long(n))
+	at := 1 + int(side)*halfOf(sectors)
+	for j := range halfOf(sectors) {
+		d.Sectors[at+j] = long(impl.SectorSize * (j + 1))[impl.SectorSize*j:]
+	}
+	sameAreaOut(t, "AreaRead, all full", impl.AreaRead(d), impl.AreaOut{Disk: d, Text: long(n), Gen: 5})
+	waiting := ownDisk(d)
+	waiting.Pending = []impl.Pending{{At: int64(at + i), Data: left}}
+	mended := ownDisk(d)
+	mended.Pending = []impl.Pending{{At: int64(at + i), Data: d.Sectors[at+i]}}
+	d.Sectors[at+i], mended.Sectors[at+i] = left, left
+	for _, short := range []impl.Disk{d, waiting} {
+		noArea(t, "AreaRead, one not full", impl.AreaRead(short), impl.ErrSum)
+		noArea(t, "AreaPut, one not full", impl.AreaPut(short, "new", 100), impl.ErrSum)
+	}
+	sameAreaOut(t, "AreaRead, full again", impl.AreaRead(mended), impl.AreaOut{Disk: mended, Text: long(n), Gen: 5})
 }
 
 type headFault struct {
@@ -232,6 +281,14 @@ func shortSides() []impl.Disk {
 			out = append(out, empty)
 		}
 	}
+	// Bytes enough on the side, but not in the Sectors in which they stand.
+	four := numbered(1, 0, 4)
+	out = append(out,
+		impl.Disk{Sectors: []string{four, "abc", "wxyz", "", ""}},
+		impl.Disk{Sectors: []string{four, "", "wxyz", "", ""}},
+		impl.Disk{Sectors: []string{numbered(1, 1, 68), "", "", long(63), "abcdefgh"}},
+		impl.Disk{Sectors: []string{numbered(1, 1, 68), "", "", "", long(64), "abc", "wxyz"}},
+		impl.Disk{Sectors: []string{numbered(2, 1, 4), "a", "b", "c", "ab", "", "cd"}})
 	// The Sector that an even disk has left over belongs to no side.
 	spare := impl.Disk{Sectors: []string{numbered(0, 1, 64), long(64), long(63), long(64)}}
 	return append(out, spare)
