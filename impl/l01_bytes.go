@@ -154,6 +154,37 @@ func readText(text string, at int64) (string, int64, error) {
 	return joined(text[from : from+size]), from + size, nil
 }
 
+// byteReader reads what stands one behind the other. Behind the first fault it reads
+// zero values alone, so what is read can be looked at once, at the end.
+type byteReader struct {
+	text string
+	at   int64
+	err  error
+}
+
+func (r *byteReader) num() int64 {
+	if r.err != nil {
+		return 0
+	}
+	n, next, err := readNum(r.text, r.at)
+	r.at, r.err = next, err
+	return n
+}
+
+func (r *byteReader) words() string {
+	if r.err != nil {
+		return ""
+	}
+	t, next, err := readText(r.text, r.at)
+	r.at, r.err = next, err
+	return t
+}
+
+// isDone tells whether all was read without a fault, and nothing stands behind it.
+func (r *byteReader) isDone() bool {
+	return r.err == nil && r.at == int64(len(r.text))
+}
+
 // PutNum: see chapter 2.
 func PutNum(n int64) string {
 	var out []byte
@@ -202,6 +233,10 @@ func NameRight(t string) bool {
 		}
 	}
 	return true
+}
+
+func isTime(n int64) bool {
+	return n >= 0 && n <= MaxTime
 }
 
 func isLetter(b byte) bool {
