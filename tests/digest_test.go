@@ -188,3 +188,12 @@ func TestStretchRefused(t *testing.T) {
 		same(t, "pass", impl.Stretch(long(n), 100), "")
 	}
 }
+
+func unhexed(t *testing.T, text string) []byte {
+	t.Helper()
+	b, err := hex.DecodeString(text)
+	if err != nil {
+		t.Fatal(err)
+	}
+	return b
+}
